@@ -232,6 +232,22 @@ func TestFullSetsAreToldByTheOthers(t *testing.T) {
 	})
 }
 
+// P74.
+func TestMoreSeatsHaveNoFewerRooks(t *testing.T) {
+	eachSeats(func(seats []int) {
+		counts := impl.RookCounts(seats)
+		all := impl.RookCounts(slices.Repeat([]int{1<<len(seats) - 1}, len(seats)))
+		if len(all) != len(counts) {
+			t.Fatalf("RookCounts(%v) = %v, of all cells %v", seats, counts, all)
+		}
+		for k, count := range counts {
+			if all[k] < count {
+				t.Errorf("RookCounts(%v) = %v, of all cells %v", seats, counts, all)
+			}
+		}
+	})
+}
+
 func TestInvalidSeats(t *testing.T) {
 	for _, seats := range invalidSeats {
 		if impl.ValidSeats(seats) {
